@@ -104,7 +104,7 @@ func TestDeepest(t *testing.T) {
 	mustReach(t, "elseifs", 98, func(n int) string { return "if nil then " + strings.Repeat("elseif nil then ", n) + "else x = 1 end" })
 }
 
-// P14.1, P14.2: scripts that come nearest to the limits of functions: none reaches those of registers, orders, constants and functions.
+// P14.1, P14.2: scripts that come near to the limits of functions; none is known that reaches those of registers, orders, constants and functions.
 func TestGreatest(t *testing.T) {
 	level := "f(" + many(29, "1", ",") + ",1==1+1*"
 	for name, c := range map[string]struct {
@@ -112,7 +112,8 @@ func TestGreatest(t *testing.T) {
 		least int
 		of    func(p api.Proto) int
 	}{
-		"registers": {"local " + numbered(200, " local ") + " f = function(a) return 1 end g.x = 1 .. 1 == 1 + 1 * " + strings.Repeat(level, 97) + "1" + strings.Repeat(")", 97), 3300, func(p api.Proto) int { return p.Regs }},
+		"registers": {"local " + numbered(200, " local ") + " f = function(a) return 1 end g.x = 1 == 1 + 1 * " + strings.Repeat(level, 99) + "1" + strings.Repeat(")", 99), 3400, func(p api.Proto) int { return p.Regs }},
+		"constants": {"return {" + numbered(8190, ",") + "}", 16380, func(p api.Proto) int { return len(p.Consts) }},
 		"orders":    {"return {" + strings.Repeat("a,", 8190) + "}", 24000, func(p api.Proto) int { return len(p.Code) }},
 		"items":     {"return {" + strings.Repeat("1,", 8190) + "}", 8190, func(p api.Proto) int { return len(p.Consts) }},
 		"loops":     {strings.Repeat("while nil do end ", 3855), 11000, func(p api.Proto) int { return len(p.Code) }},

@@ -8,7 +8,7 @@ import (
 	"minstrel/api"
 )
 
-// P14.1: what would be too great for Check is ErrLong, at 0. The limits of scripts keep these ahead of that, so functions stand here that no script has.
+// P14.1: what would be too great for Check is ErrLong, at 0. No script is known that gets there, so functions stand here that none gave.
 func TestTooGreat(t *testing.T) {
 	end := []api.Instr{{Op: api.OpEnd}}
 	fits := api.Proto{Regs: 3, Code: end}
