@@ -207,10 +207,10 @@ func (w *bench) joined(a, b api.Value) api.Value {
 	return value.Text(s)
 }
 
-// goesOn tells whether a for goes on.
+// goesOn tells whether a for goes on: what is not above may well be a NaN.
 func goesOn(from, to, step api.Value) bool {
 	f, t, s := float(from), float(to), float(step)
-	return s > 0 && f <= t || s < 0 && f >= t
+	return s > 0 && !(f > t) || s < 0 && !(f < t)
 }
 
 func (w *bench) call(f api.Value, arguments []api.Value) api.Value {
