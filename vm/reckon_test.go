@@ -111,7 +111,7 @@ func TestReckon(t *testing.T) {
 		"1 + 2": "3", "0.1 + 0.2": "0.30000000000000004", "1/0 - 1/0": "nan", "2 - 5": "-3", "3 * -0": "-0", "7 / 2": "3.5", "1 / -0": "-inf", "-1 % 3": "2", "1 % -3": "-2", "5.5 % 2": "1.5", "-6 % 3": "0", "6 % -3": "-0", "1 % 0": "nan", "1 % (1/0)": "1", "-1 % (1/0)": "inf", "1e308 * 10": "inf",
 		`"1" + 2`: "!arith", "nil - 1": "!arith", "true * 1": "!arith", "{} / 1": "!arith", "1 % type": "!arith",
 		"- 5": "-5", "- 0": "-0", "-(0/0)": "nan", `-"5"`: "!arith", "not nil": "true", "not false": "true", "not 0": "false", `not ""`: "false", "not {}": "false",
-		`#""`: "0", `#"abc"`: "3", `#"\n\t"`: "2", "#{}": "0", "#{1, 2, 3}": "3", "#{1, nil, 3}": "1", "#{nil, 2}": "0", "#{[2] = 1, [1] = 1}": "2", "#{x = 1}": "0", "#5": "!len", "#nil": "!len", "#type": "!len",
+		`#""`: "0", `#"abc"`: "3", `#"\n\t"`: "2", `#(char(195) .. char(164))`: "2", "#{}": "0", "#{1, 2, 3}": "3", "#{1, nil, 3}": "1", "#{nil, 2}": "0", "#{[2] = 1, [1] = 1}": "2", "#{x = 1}": "0", "#5": "!len", "#nil": "!len", "#type": "!len",
 		`"a" .. "b"`: "ab", `1 .. 2`: "12", `"x" .. -0`: "x-0", `0.5 .. ""`: "0.5", `1/0 .. ""`: "inf", `"a" .. nil`: "!concat", `true .. "a"`: "!concat", `{} .. 1`: "!concat", `"a" .. "b" .. 3`: "ab3",
 		`#(rep("a", 16383) .. 1)`: "16384", `#(rep("a", 16384) .. "")`: "16384", `rep("a", 16384) .. 1`: "!long", `12 .. rep("a", 16383)`: "!long",
 		"1 == 1": "true", `1 == "1"`: "false", "0 == -0": "true", "0/0 == 0/0": "false", "nil == false": "false", `"a" == "a"`: "true", "{} == {}": "false", "type == type": "true", "type == error": "false", "1 ~= 1": "false", "0/0 ~= 0/0": "true", "nil ~= nil": "false", "nil ~= 0": "true",
@@ -230,6 +230,44 @@ func TestBoxes(t *testing.T) {
 		if shown(o) != c.want || o.Fuel != 100-c.paid {
 			t.Errorf("%s: %v, not %s with %d paid", c.why, o, c.want, c.paid)
 		}
+	}
+}
+
+// P17.7: a Box as an argument is as Nil is: what stands for a missing argument stands for it, too.
+func TestBoxesAsArguments(t *testing.T) {
+	call := func(args []api.Value, box int, name string) string {
+		t.Helper()
+		p := api.Proto{Regs: 5, Consts: append([]api.Value{value.Text(name)}, args...)}
+		p.Code = []api.Instr{{Op: api.OpGetGlobal}}
+		for i := range args {
+			p.Code = append(p.Code, api.Instr{Op: api.OpConst, A: i + 1, B: i + 1})
+		}
+		p.Code = append(p.Code, api.Instr{Op: api.OpNewBox, A: box + 1, B: 4}, api.Instr{Op: api.OpCall, B: 3}, api.Instr{Op: api.OpReturn})
+		return shown(newWorlds(t, 100, 7).proto(t, p, 100))
+	}
+	abc, b := value.Text("abc"), value.Text("b")
+	for _, c := range []struct {
+		name string
+		args []api.Value
+		box  int
+		want string
+	}{
+		{"type", nil, 0, "nil"}, {"tostring", nil, 0, "nil"}, {"tonumber", nil, 0, "nil"}, {"error", nil, 0, "!nil"}, {"pcall", nil, 0, "table"}, {"create", nil, 0, "!call"}, {"resume", nil, 0, "!resume"}, {"yield", nil, 0, "!yield"}, {"upper", nil, 0, "!text"}, {"char", nil, 0, "!arith"}, {"next", nil, 0, "!index"},
+		{"random", nil, 0, "0.3898297483912715"},
+		{"sub", []api.Value{abc, num(2)}, 2, "bc"}, {"sub", []api.Value{abc}, 1, "!arith"}, {"byte", []api.Value{abc}, 1, "97"}, {"find", []api.Value{abc, b}, 2, "2"}, {"rep", []api.Value{abc}, 1, "!arith"},
+	} {
+		if got := call(c.args, c.box, c.name); got != c.want {
+			t.Errorf("%s with a Box as the argument %d: %s, not %s", c.name, c.box, got, c.want)
+		}
+	}
+	// A Box lets nothing stand in for a table.
+	p := api.Proto{Regs: 5, Consts: []api.Value{value.Text("setmeta"), value.Text("getmeta")}, Code: []api.Instr{
+		{Op: api.OpMake, A: 1}, {Op: api.OpMake, A: 2}, {Op: api.OpMove, A: 3, B: 1}, {Op: api.OpGetGlobal, A: 0, B: 0}, {Op: api.OpCall, A: 0, B: 2},
+		{Op: api.OpNewBox, A: 2, B: 4}, {Op: api.OpGetGlobal, A: 0, B: 0}, {Op: api.OpCall, A: 0, B: 2},
+		{Op: api.OpGetGlobal, A: 2, B: 1}, {Op: api.OpCall, A: 2, B: 1}, {Op: api.OpReturn, A: 2},
+	}}
+	if o := newWorlds(t, 100, 7).proto(t, p, 100); o != (api.Outcome{Fuel: 90}) {
+		t.Errorf("what stands in behind setmeta with a Box: %v", o)
 	}
 }
 

@@ -34,7 +34,7 @@ func strange(t *testing.T) *vm.World {
 		set(name, api.Value{K: kind, O: o})
 	}
 	box := h.Slot(get("f").O, 0)
-	made("Fscript", api.Func, 1, 1, box)
+	made("Fscript", api.Func, 2, 0, box) // the scripts are 0 and, while it runs, 1
 	made("Fscriptbelow", api.Func, -1, 1, box)
 	made("Ffunction", api.Func, 0, 2, box)
 	made("Ffunctionbelow", api.Func, 0, -1, box)
